@@ -5,6 +5,7 @@ import (
 	"strings"
 
 	"bastion/api"
+	"bastion/fresh"
 	"bastion/origin"
 	"bastion/pct"
 	"bastion/sfield"
@@ -83,7 +84,7 @@ func Attribute(s string, self, src api.Origin) ([]api.Grant, api.Errno) {
 // named is who has a feature by the words behind it.
 func named(l []string, self, src api.Origin) api.Allow {
 	if len(l) == 0 {
-		return api.Allow{Origins: []api.Origin{fresh(src)}}
+		return api.Allow{Origins: []api.Origin{fresh.Origin(src)}}
 	}
 	var out api.Allow
 	for _, word := range l {
@@ -91,22 +92,14 @@ func named(l []string, self, src api.Origin) api.Allow {
 		case "*":
 			out.All = true
 		case "'self'":
-			out.Origins = append(out.Origins, fresh(self))
+			out.Origins = append(out.Origins, fresh.Origin(self))
 		case "'src'":
-			out.Origins = append(out.Origins, fresh(src))
+			out.Origins = append(out.Origins, fresh.Origin(src))
 		default: // 'none' is no URL
 			out.Origins = append(out.Origins, ofText(word)...)
 		}
 	}
 	return out
-}
-
-// fresh is an origin in memory of its own.
-func fresh(o api.Origin) api.Origin {
-	for _, s := range []*string{&o.Scheme, &o.Host.Name, &o.Domain} {
-		*s = strings.Clone(*s)
-	}
-	return o
 }
 
 // Has tells whether an origin has a feature that a document of self tells who has.

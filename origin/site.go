@@ -4,6 +4,7 @@ import (
 	"strings"
 
 	"bastion/api"
+	"bastion/fresh"
 	"bastion/host"
 )
 
@@ -18,7 +19,7 @@ func Relax(rules []string, o api.Origin, domain string) (api.Origin, api.Errno) 
 		return api.Origin{}, api.ErrDenied
 	}
 	o.Domain, o.HasDomain = domain, true
-	return fresh(o), api.OK
+	return fresh.Origin(o), api.OK
 }
 
 // relaxes tells whether an origin of a host may have a domain.

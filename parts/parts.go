@@ -2,7 +2,6 @@
 package parts
 
 import (
-	"slices"
 	"strings"
 
 	"bastion/api"
@@ -88,15 +87,3 @@ func Port(digits string) (int, bool) {
 
 // Local tells whether a host is the one that file URLs leave out.
 func Local(h api.Host) bool { return h.Kind == api.HostDomain && h.Name == "localhost" }
-
-// Clone is a URL in memory of its own.
-func Clone(u api.Url) api.Url {
-	for _, s := range []*string{&u.Scheme, &u.User, &u.Pass, &u.Host.Name, &u.Body, &u.Query, &u.Fragment} {
-		*s = strings.Clone(*s)
-	}
-	u.Path = slices.Clone(u.Path)
-	for i, segment := range u.Path {
-		u.Path[i] = strings.Clone(segment)
-	}
-	return u
-}

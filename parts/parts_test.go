@@ -111,14 +111,3 @@ func TestScalarAndLocal(t *testing.T) {
 		}
 	}
 }
-
-// 9.3: a clone shares no memory.
-func TestClone(t *testing.T) {
-	u := api.Url{Scheme: "http", Host: api.Host{Kind: api.HostDomain, Name: "h"}, Path: append(make([]string, 0, 9), "a", "b"), Query: "q", HasQuery: true}
-	v := Clone(u)
-	v.Path[0] = "c"
-	_ = append(v.Path[:1], "d")
-	if u.Path[0] != "a" || u.Path[1] != "b" || v.Query != "q" || !v.HasQuery || v.Host != u.Host {
-		t.Errorf("Clone: %+v, of %+v", v, u)
-	}
-}
