@@ -93,3 +93,22 @@ func Cells(l []api.Cell) []api.Cell { return list(l, Cell) }
 func Cell(c api.Cell) api.Cell {
 	return api.Cell{Key: Key(c.Key), Name: strings.Clone(c.Name), Value: strings.Clone(c.Value)}
 }
+
+// State is a state.
+func State(s api.State) api.State {
+	s.Tree, s.Rules, s.Cells = Tree(s.Tree), Texts(s.Rules), Cells(s.Cells)
+	s.Texts, s.Edges, s.Notes = list(s.Texts, text), list(s.Edges, edge), list(s.Notes, note)
+	return s
+}
+
+func text(x api.Text) api.Text {
+	x.Text = strings.Clone(x.Text)
+	return x
+}
+
+func edge(e api.Edge) api.Edge { return api.Edge{From: Origin(e.From), To: Origin(e.To)} }
+
+func note(n api.Note) api.Note {
+	n.Of, n.From, n.Text = Origin(n.Of), Origin(n.From), strings.Clone(n.Text)
+	return n
+}

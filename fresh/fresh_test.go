@@ -96,6 +96,7 @@ func TestCopies(t *testing.T) {
 	copies(t, Key)
 	copies(t, Cell)
 	copies(t, Cells)
+	copies(t, State)
 }
 
 // P1: nil and empty lists are alike.

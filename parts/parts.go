@@ -87,3 +87,12 @@ func Port(digits string) (int, bool) {
 
 // Local tells whether a host is the one that file URLs leave out.
 func Local(h api.Host) bool { return h.Kind == api.HostDomain && h.Name == "localhost" }
+
+// LocalUrl tells whether a URL is local: what is at it came from no server.
+func LocalUrl(u api.Url) bool {
+	switch u.Scheme {
+	case "about", "data", "blob":
+		return true
+	}
+	return false
+}

@@ -111,3 +111,12 @@ func TestScalarAndLocal(t *testing.T) {
 		}
 	}
 }
+
+// 17, Words: which URLs are local.
+func TestLocalUrl(t *testing.T) {
+	for scheme, want := range map[string]bool{"about": true, "data": true, "blob": true, "": false, "About": false, "aboutx": false, "http": false, "https": false, "file": false, "x": false, "javascript": false} {
+		if got := LocalUrl(api.Url{Scheme: scheme, Opaque: true}); got != want {
+			t.Errorf("LocalUrl of the scheme %q: %v", scheme, got)
+		}
+	}
+}

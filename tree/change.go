@@ -8,6 +8,7 @@ import (
 	"bastion/embed"
 	"bastion/fresh"
 	"bastion/origin"
+	"bastion/parts"
 	"bastion/tables"
 )
 
@@ -103,7 +104,7 @@ func (c *change) loaded(n api.Nav, doc int, l api.Load) api.Doc {
 	switch {
 	case l.Srcdoc:
 		d.Policies = parent.Policies
-	case slices.Contains([]string{"about", "data", "blob"}, l.Url.Scheme):
+	case parts.LocalUrl(l.Url):
 		d.Policies = by.Policies
 	}
 	if n.Parent == 0 {
